@@ -8,6 +8,20 @@ import (
 	"loanbook/api"
 )
 
+func TestTargetMay(t *testing.T) {
+	for n := -20; n <= api.MaxSingles+20; n++ {
+		want := n%2 == 0 && n >= 4 && n <= api.MaxSingles
+		if got := TargetMay(api.Target{Singles: n}); got != want {
+			t.Errorf("TargetMay(%d) = %v, want %v", n, got, want)
+		}
+	}
+	for _, n := range []int{math.MinInt, math.MinInt + 8, math.MaxInt, math.MaxInt - 1, 1<<32 + 4} {
+		if TargetMay(api.Target{Singles: n}) {
+			t.Errorf("TargetMay(%d) = true, want false", n)
+		}
+	}
+}
+
 func TestAll(t *testing.T) {
 	want := []api.Place{single(0), single(1), single(2), single(3), double(0), double(1), slot(0), slot(1), slot(2)}
 	if got := All(api.Target{Singles: 4}, 3); !slices.Equal(got, want) {
