@@ -15,7 +15,7 @@ const (
 
 func crowdTemps() []bool { return append(allNarrow(crowdNarrow), allWide(crowdWide)...) }
 
-// crowded has an instruction where each temporary is needed ahead of it and behind it.
+// crowded has an instruction ahead of which each temporary was given, and behind which, if it goes on there, each one comes out.
 func crowded(i api.Ins) api.Prog {
 	p := api.Prog{Wide: crowdTemps()}
 	for k := range crowdNarrow {
